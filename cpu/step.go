@@ -18,14 +18,21 @@ func Step(m api.Machine, irq bool, block []int, value int) (api.Machine, int, ap
 	if g.End != api.Going {
 		return g, none, api.OK
 	}
-	if irq {
-		g.Wait = true
-	}
-	takeBlock(&g, block)
-	letIn(&g)
+	comeAhead(&g, irq, block)
 	g.Count++
 	wrote := doNext(&g, value)
 	return g, wrote, api.OK
+}
+
+// Asks: would such a step of a guest ask the world for a word? One that is refused asks nothing.
+func Asks(m api.Machine, irq bool, block []int) bool {
+	if checkStep(m, block, 0) != api.OK || m.End != api.Going {
+		return false
+	}
+	g := Copy(m)
+	comeAhead(&g, irq, block)
+	i, end := next(&g)
+	return end == api.Going && i.Op == api.In && isOfWorld(i.N)
 }
 
 // checkStep holds for a guest that has ended, too: a step of it is refused for the same reasons.
@@ -40,6 +47,15 @@ func checkStep(m api.Machine, block []int, value int) api.Errno {
 		return api.ErrRange
 	}
 	return api.OK
+}
+
+// comeAhead of the instruction: an interrupt, and a block; by them the next instruction may be another one.
+func comeAhead(m *api.Machine, irq bool, block []int) {
+	if irq {
+		m.Wait = true
+	}
+	takeBlock(m, block)
+	letIn(m)
 }
 
 // takeBlock into the page that was wanted, as the host has it: no table is asked.
@@ -172,14 +188,19 @@ func jumps(op, word int) bool {
 
 // in: what a port tells; those that are only told something are none here.
 func in(m *api.Machine, i api.Instr, value int) {
-	switch i.N {
-	case api.Clock, api.Key:
+	switch {
+	case isOfWorld(i.N):
 		m.Regs[i.A] = value
-	case api.State:
+	case i.N == api.State:
 		m.Regs[i.A] = m.Ready
 	default:
 		m.End = api.BadAt
 	}
+}
+
+// isOfWorld: does the world tell what In is told by this port?
+func isOfWorld(port int) bool {
+	return port == api.Clock || port == api.Key
 }
 
 // out: what a port is told; those that only tell something are none here.
