@@ -35,47 +35,46 @@ func Copy(f api.Frames) api.Frames {
 
 // Take the first free frame: its words are 0.
 func Take(f api.Frames) (api.Frames, int, api.Errno) {
-	if e := Check(f); e != api.OK {
+	h, e := copied(f)
+	if e != api.OK {
 		return api.Frames{}, 0, e
 	}
-	n, found := firstFree(f)
-	if !found {
-		return api.Frames{}, 0, api.ErrRoom
+	n, e := h.Occupy()
+	if e != api.OK {
+		return api.Frames{}, 0, e
 	}
-	g := Copy(f)
-	g.Refs[n] = 1
-	g.Data[n] = make([]int, api.PageWords)
-	return g, n, api.OK
+	return h.f, n, api.OK
 }
 
 // Share a frame: one more knows it.
 func Share(f api.Frames, n int) (api.Frames, api.Errno) {
-	if e := checkKnown(f, n); e != api.OK {
+	h, e := copied(f)
+	if e != api.OK {
 		return api.Frames{}, e
 	}
-	if f.Refs[n] == api.MaxFrames {
-		return api.Frames{}, api.ErrSize
+	if e := h.Join(n); e != api.OK {
+		return api.Frames{}, e
 	}
-	g := Copy(f)
-	g.Refs[n]++
-	return g, api.OK
+	return h.f, api.OK
 }
 
 // Drop a frame: one less knows it; if nobody does it is free.
 func Drop(f api.Frames, n int) (api.Frames, api.Errno) {
-	if e := checkKnown(f, n); e != api.OK {
+	h, e := copied(f)
+	if e != api.OK {
 		return api.Frames{}, e
 	}
-	g := Copy(f)
-	g.Refs[n]--
-	if g.Refs[n] == 0 {
-		g.Data[n] = nil
+	if e := h.Leave(n); e != api.OK {
+		return api.Frames{}, e
 	}
-	return g, api.OK
+	return h.f, api.OK
 }
 
 // Read a word of a frame.
 func Read(f api.Frames, n, at int) (int, api.Errno) {
+	if e := Check(f); e != api.OK {
+		return 0, e
+	}
 	if e := checkWord(f, n, at); e != api.OK {
 		return 0, e
 	}
@@ -84,24 +83,15 @@ func Read(f api.Frames, n, at int) (int, api.Errno) {
 
 // Write a word of a frame: where it is then: one that others know stays as it is, and a copy is written.
 func Write(f api.Frames, n, at, v int) (api.Frames, int, api.Errno) {
-	if e := checkWord(f, n, at); e != api.OK {
+	h, e := copied(f)
+	if e != api.OK {
 		return api.Frames{}, 0, e
 	}
-	if f.Refs[n] == 1 {
-		g := Copy(f)
-		g.Data[n][at] = v
-		return g, n, api.OK
+	to, e := h.Put(n, at, v)
+	if e != api.OK {
+		return api.Frames{}, 0, e
 	}
-	to, found := firstFree(f)
-	if !found {
-		return api.Frames{}, 0, api.ErrRoom
-	}
-	g := Copy(f)
-	g.Refs[n]--
-	g.Refs[to] = 1
-	g.Data[to] = copyWords(f.Data[n])
-	g.Data[to][at] = v
-	return g, to, api.OK
+	return h.f, to, api.OK
 }
 
 // wordsFor: how many words a frame has that so many know.
@@ -112,11 +102,8 @@ func wordsFor(refs int) int {
 	return api.PageWords
 }
 
-// checkKnown tells ErrState ahead of ErrNone: of frames that may not be, no frame can be asked for.
+// checkKnown: of frames that may be, is there such a one, and is it known?
 func checkKnown(f api.Frames, n int) api.Errno {
-	if e := Check(f); e != api.OK {
-		return e
-	}
 	if n < 0 || n >= len(f.Refs) || f.Refs[n] == 0 {
 		return api.ErrNone
 	}
@@ -132,16 +119,6 @@ func checkWord(f api.Frames, n, at int) api.Errno {
 		return api.ErrRange
 	}
 	return api.OK
-}
-
-// firstFree frame, and whether there is one.
-func firstFree(f api.Frames) (int, bool) {
-	for n, refs := range f.Refs {
-		if refs == 0 {
-			return n, true
-		}
-	}
-	return 0, false
 }
 
 // copyWords leaves no spare room, so that nothing appended to one answer can be seen in another.
