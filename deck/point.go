@@ -7,11 +7,15 @@ import (
 	"hourglass/space"
 )
 
+// none: no word was written.
+const none = -1
+
 // point of a tape: the guest behind so many steps. Its memory is in a space; the guest itself has none.
 type point struct {
 	place int
 	guest api.Machine
 	mem   *space.Space
+	wrote int // the word that the step to this place wrote, or none
 }
 
 // beginning of a tape with such an image, on a host.
@@ -20,7 +24,7 @@ func beginning(h *frames.Host, image []int) (point, api.Errno) {
 	if e != api.OK {
 		return point{}, e
 	}
-	p := point{mem: space.Blank(h)}
+	p := point{mem: space.Blank(h), wrote: none}
 	if e := p.become(m); e != api.OK {
 		return point{}, e
 	}

@@ -31,19 +31,19 @@ func newSeeker(h *frames.Host, s api.Setup, image []int, events []api.Event) (*s
 	return &seeker{setup: s, events: events, start: start, now: now}, api.OK
 }
 
-// seek the guest at a place.
-func (d *seeker) seek(place int) (api.Machine, api.Errno) {
+// seek the guest at a place, and the word that the step to it wrote.
+func (d *seeker) seek(place int) (api.Machine, int, api.Errno) {
 	if e := d.leap(place); e != api.OK {
-		return api.Machine{}, e
+		return api.Machine{}, 0, e
 	}
 	for d.now.place < place && d.now.guest.End == api.Going {
 		if e := d.step(); e != api.OK {
-			return api.Machine{}, e
+			return api.Machine{}, 0, e
 		}
 	}
-	// A guest that has ended stays as it is, whatever the tape tells of further steps.
+	// A guest that has ended stays as it is, whatever the tape tells of further steps. These write nothing, and the one that ended it did not either.
 	d.now.place = place
-	return cpu.Copy(d.now.whole()), api.OK
+	return cpu.Copy(d.now.whole()), d.now.wrote, api.OK
 }
 
 // leap to the point from which the fewest steps lead to a place, unless it is the one where the seeker is.
@@ -76,7 +76,7 @@ func (d *seeker) nearest(place int) point {
 // step of the guest, with what the tape tells of it, and the checkpoint that is due then.
 func (d *seeker) step() api.Errno {
 	irq, block, value := run.Told(d.events, d.now.place)
-	m, _, e := cpu.Step(d.now.whole(), irq, block, value)
+	m, wrote, e := cpu.Step(d.now.whole(), irq, block, value)
 	if e != api.OK {
 		return e
 	}
@@ -84,6 +84,7 @@ func (d *seeker) step() api.Errno {
 		return e
 	}
 	d.now.place++
+	d.now.wrote = wrote
 	if d.now.place%d.setup.Every != 0 || m.End != api.Going {
 		return api.OK
 	}

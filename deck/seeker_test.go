@@ -59,7 +59,7 @@ func wantLeap(t *testing.T, d *seeker, place, from int) {
 	if e := d.leap(place); e != api.OK || d.now.place != from {
 		t.Errorf("to %d: from %d, %v; want from %d, OK", place, d.now.place, e, from)
 	}
-	m, e := d.seek(place)
+	m, _, e := d.seek(place)
 	if e != api.OK || m.Count != place || m.Regs[1] != (place+1)/2 || d.now.place != place {
 		t.Errorf("to %d: %v, %v at %d", place, m, e, d.now.place)
 	}
@@ -117,7 +117,7 @@ func TestNoCheckpointOfTheEnded(t *testing.T) { // P6.3
 		nop := api.Instr{Op: api.Nop}
 		d, _ := begun(t, api.Setup{Frames: 160, Every: every, Keep: 8}, nop, nop, nop)
 		for _, place := range []int{20, 4, 20, 6} {
-			m, e := d.seek(place)
+			m, _, e := d.seek(place)
 			if e != api.OK || m.Count != 4 || m.End != api.Halted || d.now.place != place {
 				t.Errorf("every %d: at %d: %v, %v", every, place, m, e)
 			}
@@ -149,7 +149,7 @@ func TestFramesOfCheckpoints(t *testing.T) { // P6.3
 		{90, 3}, // so it stays
 		{1, 3},  // at the beginning there is no page 2: the two of the checkpoints
 	} {
-		if _, e := d.seek(c.place); e != api.OK || h.Known() != c.known {
+		if _, _, e := d.seek(c.place); e != api.OK || h.Known() != c.known {
 			t.Errorf("at %d: %d frames are known, %v; want %d, OK", c.place, h.Known(), e, c.known)
 		}
 	}
